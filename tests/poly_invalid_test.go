@@ -19,6 +19,13 @@ func asList(number int, ok bool) ([]int, bool) {
 	return []int{number}, ok
 }
 
+func yesAsList(yes, ok bool) ([]int, bool) {
+	if yes {
+		return []int{1}, ok
+	}
+	return nil, ok
+}
+
 func bytesAsList(text string, ok bool) ([]int, bool) {
 	var list []int
 	for _, b := range []byte(text) {
@@ -62,12 +69,6 @@ func tableCalls() map[string]listCall {
 }
 
 func isCalls() map[string]listCall {
-	yesAsList := func(yes, ok bool) ([]int, bool) {
-		if yes {
-			return []int{1}, ok
-		}
-		return nil, ok
-	}
 	return map[string]listCall{
 		"IsPoly":  func(q int, f []int) ([]int, bool) { return yesAsList(impl.IsPoly(q, f)) },
 		"IsTable": func(q int, table []int) ([]int, bool) { return yesAsList(impl.IsTable(q, table)) },
