@@ -105,6 +105,9 @@ func (e element) number() int {
 	return n
 }
 
+// digitList leaves out the places that the field does not have.
+func (e element) digitList() []int { return append([]int(nil), e.digits[:e.field.places]...) }
+
 func (e element) isZero() bool { return e.digits == digits{} }
 
 func (e element) plus(other element) element {
@@ -200,6 +203,8 @@ func (e element) conjugates() []element {
 	return powers
 }
 
+func (e element) trace() element { return e.field.sumOf(e.conjugates()) }
+
 func elementOf(q int, a int) (element, bool) {
 	f, ok := fieldOf(q)
 	if !ok || !f.has(a) {
@@ -254,7 +259,7 @@ func DigitsOf(q int, a int) ([]int, bool) {
 	if !ok {
 		return nil, false
 	}
-	return append([]int(nil), e.digits[:e.field.places]...), true
+	return e.digitList(), true
 }
 
 // PlusOf returns the sum.
@@ -352,11 +357,7 @@ func TraceOf(q int, a int) (int, bool) {
 	if !ok {
 		return 0, false
 	}
-	sum := e.field.zero()
-	for _, c := range e.conjugates() {
-		sum = sum.plus(c)
-	}
-	return sum.number(), true
+	return e.trace().number(), true
 }
 
 // NormOf returns the product of the powers 1, p, p^2, .., p^(k - 1) of a: it is one of 0..p - 1.
