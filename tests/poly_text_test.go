@@ -109,21 +109,29 @@ func plainText(f []int) string {
 	return text[1:]
 }
 
-func TestTextsThatAreNoneFail(t *testing.T) {
-	common := []string{"", ",", ",,", " ", "0", "00", "0,0", "1,0", "--", "-,", ",-", "-,1", "1,-", "- ", " -", "-0", "-1", "+1", "+", "1,+1", "01", "1,01", "001", "1,00,1",
+// noTextsOverAny has texts that are those of no polynomial over any field.
+func noTextsOverAny() []string {
+	return []string{"", ",", ",,", " ", "0", "00", "0,0", "1,0", "--", "-,", ",-", "-,1", "1,-", "- ", " -", "-0", "-1", "+1", "+", "1,+1", "01", "1,01", "001", "1,00,1",
 		" 1", "1 ", "1, 1", "1 ,1", "1,1,", ",1", "1,,1", "1;1", "1.1", "1.0", "1e0", "0x1", "1_0", "\n", "1\n", "1\r", "1\t", "\x00", "1\x00", "x", "1,x", "a", "\xff", "1,\xff", "١", "１", "−",
 		"16", "1,16", "17", "100", "9223372036854775807", "9223372036854775808", "18446744073709551617", "1," + strings.Repeat("0", 1000) + "1", strings.Repeat("9", 1000), strings.Repeat(",", 1000)}
+}
+
+// noTexts also has numbers that are no elements of the field, and more coefficients than there may be.
+func noTexts(q int) []string {
+	size, tooMany := strconv.Itoa(q), strings.Repeat("1,", q)+"1"
+	return append(noTextsOverAny(), size, "1,"+size, size+",1", strconv.Itoa(-q), size+",0",
+		tooMany, tooMany+",1", strings.Repeat("1,", 39)+"1", strings.Repeat("1,", 5000)+"1", strings.Repeat("0,", q)+"1", strings.Repeat("1,", q)+"0", strings.Repeat("1,", q))
+}
+
+func TestTextsThatAreNoneFail(t *testing.T) {
 	for _, q := range sizes {
-		failsTexts(t, q, common)
-		failsTexts(t, q, []string{strconv.Itoa(q), "1," + strconv.Itoa(q), strconv.Itoa(q) + ",1", strconv.Itoa(-q), strconv.Itoa(q) + ",0"})
-		tooMany := strings.Repeat("1,", q) + "1"
-		failsTexts(t, q, []string{tooMany, tooMany + ",1", strings.Repeat("1,", 39) + "1", strings.Repeat("1,", 5000) + "1", strings.Repeat("0,", q) + "1", strings.Repeat("1,", q) + "0", strings.Repeat("1,", q)})
+		failsTexts(t, q, noTexts(q))
 		full, ok := impl.ParsePoly(q, strings.Repeat("0,", q-1)+"1")
 		wantList(t, fmt.Sprint("ParsePoly ", q), full, ok, append(make([]int, q-1), 1)...)
 	}
 	failsTexts(t, 5, []string{"5", "6", "1,0,2,0", "1,0,2,"})
 	for _, q := range noSizes {
-		failsTexts(t, q, append(common, "-", "1", "0,1", "1,1"))
+		failsTexts(t, q, append(noTextsOverAny(), "-", "1", "0,1", "1,1"))
 	}
 }
 
